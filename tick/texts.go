@@ -1,10 +1,8 @@
 package tick
 
 import (
-	"strconv"
-	"strings"
-
 	"meridian/api"
+	"meridian/digits"
 )
 
 // layout of a text: where it has a 0 stands a digit, elsewhere the sign itself.
@@ -16,15 +14,9 @@ func textOf(s api.Stamp) string {
 	seconds := s.Micro / api.Second
 	// A leap second belongs to the day's last minute: it opens no 24th hour.
 	minutes := min(seconds/60, 24*60-1)
-	return digits(year, 4) + "-" + digits(month, 2) + "-" + digits(date, 2) +
-		"T" + digits(minutes/60, 2) + ":" + digits(minutes%60, 2) + ":" + digits(seconds-minutes*60, 2) +
-		"." + digits(s.Micro%api.Second, 6) + "Z"
-}
-
-// digits of a number that is not below 0, so many of them.
-func digits(n, many int) string {
-	text := strconv.Itoa(n)
-	return strings.Repeat("0", max(many-len(text), 0)) + text
+	return digits.Of(year, 4) + "-" + digits.Of(month, 2) + "-" + digits.Of(date, 2) +
+		"T" + digits.Of(minutes/60, 2) + ":" + digits.Of(minutes%60, 2) + ":" + digits.Of(seconds-minutes*60, 2) +
+		"." + digits.Of(s.Micro%api.Second, 6) + "Z"
 }
 
 // firstWrong byte of a text, by the layout alone; the text's length, if it
