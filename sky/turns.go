@@ -39,17 +39,3 @@ func about(axis int, v api.Vec, turn func(a, b float64) (float64, float64)) api.
 	}
 	return v
 }
-
-// cross product.
-func cross(p, q api.Vec) api.Vec {
-	return api.Vec{
-		X: float64(p.Y*q.Z) - float64(p.Z*q.Y),
-		Y: float64(p.Z*q.X) - float64(p.X*q.Z),
-		Z: float64(p.X*q.Y) - float64(p.Y*q.X),
-	}
-}
-
-// dot product.
-func dot(p, q api.Vec) float64 {
-	return float64(p.X*q.X) + float64(p.Y*q.Y) + float64(p.Z*q.Z)
-}
