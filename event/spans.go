@@ -9,17 +9,30 @@ import (
 // farthest: how great an end of a span may be in size.
 const farthest = 1 << 60
 
-func valid(l []Span) error {
-	if len(l) > api.MaxList {
-		return api.ErrBound
+// valid lists? How many spans there are is looked at in all lists ahead of any list's
+// shape, as it is told first.
+func valid(lists ...[]Span) error {
+	for _, l := range lists {
+		if len(l) > api.MaxList {
+			return api.ErrBound
+		}
 	}
-	for i, s := range l {
-		touches := i > 0 && s.From <= l[i-1].To
-		if s.From >= s.To || touches || !within(s.From, farthest) || !within(s.To, farthest) {
+	for _, l := range lists {
+		if !rises(l) {
 			return api.ErrShape
 		}
 	}
 	return nil
+}
+
+func rises(l []Span) bool {
+	for i, s := range l {
+		touches := i > 0 && s.From <= l[i-1].To
+		if s.From >= s.To || touches || !within(s.From, farthest) || !within(s.To, farthest) {
+			return false
+		}
+	}
+	return true
 }
 
 // end of a span by its number: each span has two, so that behind an odd number of them
@@ -37,10 +50,7 @@ func end(l []Span, i int) int {
 // mixed: the instants that count, by whether they are in a and whether they are in b.
 // Those that are in neither do not.
 func mixed(a, b []Span, counts func(inA, inB bool) bool) ([]Span, error) {
-	if err := valid(a); err != nil {
-		return nil, err
-	}
-	if err := valid(b); err != nil {
+	if err := valid(a, b); err != nil {
 		return nil, err
 	}
 	var l []Span

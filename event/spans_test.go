@@ -190,15 +190,33 @@ func TestWrongSpans(t *testing.T) {
 	}
 }
 
-// P83: what is wrong with a is told ahead of what is wrong with b.
+// P83: that there are more than MaxList spans is told first, whichever list has them and
+// whatever the shape of either.
 func TestWrongBothSpans(t *testing.T) {
-	shape, bound := []event.Span{{5, 5}}, make([]event.Span, api.MaxList+1)
-	for _, m := range mixes() {
-		if _, err := m.call(shape, bound); err != api.ErrShape {
-			t.Errorf("%s: %v", m.name, err)
+	shapes := [][]event.Span{{{5, 5}}, {{1, 0}}, {{0, 5}, {5, 6}}, {{0, farthest + 1}}, comb(0, 1)}
+	longs := [][]event.Span{
+		make([]event.Span, api.MaxList+1),
+		append(comb(0, 2), event.Span{From: 2 * api.MaxList, To: 2*api.MaxList + 1}),
+	}
+	need := func(m mix, a, b []event.Span, want error) {
+		if got, err := m.call(a, b); len(got) != 0 || err != want {
+			t.Errorf("%s of %d and %d spans: %v, want %v", m.name, len(a), len(b), err, want)
 		}
-		if _, err := m.call(bound, shape); err != api.ErrBound {
-			t.Errorf("%s: %v", m.name, err)
+	}
+	for _, m := range mixes() {
+		for _, shape := range shapes {
+			for _, long := range longs {
+				need(m, shape, long, api.ErrBound)
+				need(m, long, shape, api.ErrBound)
+			}
+			for _, other := range shapes {
+				need(m, shape, other, api.ErrShape)
+			}
+		}
+		for _, long := range longs {
+			for _, other := range longs {
+				need(m, long, other, api.ErrBound)
+			}
 		}
 	}
 }
