@@ -99,33 +99,73 @@ func TestAtFarOff(t *testing.T) {
 	}
 }
 
-// P100, P1: what is no picture has a count where there is one.
+// P100, P1: what is no picture has no pixels, and so no count at one.
 func TestAtOfNone(t *testing.T) {
-	needAt(t, api.Picture{}, 0, 0, 0, false)
-	needAt(t, api.Picture{Wide: 3, High: 3}, 0, 0, 0, false)
-	needAt(t, api.Picture{Wide: 3, High: 3}, 2, 2, 0, false)
-	needAt(t, api.Picture{Wide: -3, High: -3, Counts: make([]int, 9)}, 0, 0, 0, false)
-	needAt(t, api.Picture{Wide: -3, High: -3, Counts: make([]int, 9)}, -1, -1, 0, false)
-	short := api.Picture{Wide: 3, High: 3, Counts: []int{1, 2, 3, 4, 5}}
-	needAt(t, short, 1, 1, 5, true)
-	needAt(t, short, 2, 1, 0, false)
-	needAt(t, short, 0, 2, 0, false)
-	long := api.Picture{Wide: 2, High: 1, Counts: []int{1, 2, 3, 4}}
-	needAt(t, long, 1, 0, 2, true)
-	needAt(t, long, 0, 1, 0, false)
-	// The products of these go around.
-	for _, wide := range []int{1 << 32, 1 << 62, math.MaxInt/2 + 1, math.MaxInt} {
-		p := api.Picture{Wide: wide, High: math.MaxInt, Counts: []int{1, 2, 3}}
-		needAt(t, p, 2, 0, 3, true)
-		for _, y := range []int{1, 2, 4, 1 << 31, 1 << 32, 1 << 33, 1 << 62, math.MaxInt - 1} {
-			for x := range 4 {
-				needAt(t, p, x, y, 0, false)
-			}
-			needAt(t, p, wide-1, y, 0, false)
+	zeros := func(n int) []int { return make([]int, n) }
+	for _, p := range []api.Picture{
+		{},
+		{Counts: []int{1}},
+		{Wide: 1, High: 1},
+		{Wide: 1, Counts: []int{1}},
+		{High: 1, Counts: []int{1}},
+		{Wide: -3, High: -3, Counts: zeros(9)},
+		{Wide: 3, High: 3, Counts: zeros(5)},
+		{Wide: 3, High: 3, Counts: zeros(8)},
+		{Wide: 3, High: 3, Counts: zeros(10)},
+		{Wide: 2, High: 1, Counts: zeros(4)},
+		{Wide: 257, High: 1, Counts: zeros(257)},
+		{Wide: 1, High: 257, Counts: zeros(257)},
+		{Wide: 257, High: 257, Counts: zeros(257 * 257)},
+		// The products of these go around.
+		{Wide: 1 << 32, High: 1 << 32, Counts: []int{1, 2, 3}},
+		{Wide: 1 << 62, High: math.MaxInt, Counts: []int{1, 2, 3}},
+		{Wide: math.MaxInt, High: math.MaxInt, Counts: []int{1}},
+		{Wide: 1, High: math.MaxInt, Counts: []int{1, 2, 3}},
+		{Wide: math.MinInt, High: math.MinInt, Counts: []int{1}},
+	} {
+		needNoPixels(t, p)
+	}
+}
+
+// P100: one wrong count, wherever it is, takes all the others with it.
+func TestAtWithWrongCount(t *testing.T) {
+	dice := rand.New(rand.NewSource(36))
+	for range 300 {
+		p := small(dice)
+		i := dice.Intn(len(p.Counts))
+		right := p.Counts[i]
+		for _, wrong := range []int{-1, 65536, math.MinInt, math.MaxInt} {
+			p.Counts[i] = wrong
+			needNoPixels(t, p)
+		}
+		p.Counts[i] = right
+		needAt(t, p, i%p.Wide, i/p.Wide, right, true)
+	}
+}
+
+// needNoPixels looks in and around the first rows, and at the far corners.
+func needNoPixels(t *testing.T, p api.Picture) {
+	t.Helper()
+	for y := -2; y < 10; y++ {
+		for x := -2; x < 10; x++ {
+			needAt(t, p, x, y, 0, false)
 		}
 	}
-	high := api.Picture{Wide: 1, High: math.MaxInt, Counts: []int{1, 2, 3}}
-	needAt(t, high, 0, 2, 3, true)
-	needAt(t, high, 0, 3, 0, false)
-	needAt(t, high, 0, math.MaxInt-1, 0, false)
+	for _, x := range []int{0, p.Wide - 1, p.Wide} {
+		for _, y := range []int{0, p.High - 1, p.High} {
+			needAt(t, p, x, y, 0, false)
+		}
+	}
+}
+
+// P100: of pictures of the greatest sides each corner has its count.
+func TestAtOfGreatest(t *testing.T) {
+	p := made(256, 256, 17)
+	for _, x := range []int{0, 1, 255} {
+		for _, y := range []int{0, 1, 255} {
+			needAt(t, p, x, y, p.Counts[256*y+x], true)
+		}
+	}
+	needAt(t, p, 256, 0, 0, false)
+	needAt(t, p, 0, 256, 0, false)
 }
