@@ -13,9 +13,9 @@ const (
 )
 
 // exact: the sizes of numbers, added up without rounding, in units of the least
-// number above 0; the lowest word comes first. A size is below 2^2098 units, a
-// list shorter than 2^63: all together are below 2^2161, and 34 words have room
-// for 2^2176.
+// number above 0; the lowest word comes first. A size is below 2^2098 units, and
+// there are fewer than 2^63 of them: all together are below 2^2161, and 34 words
+// have room for 2^2176.
 type exact [34]uint64
 
 // add the size of a finite number.
@@ -25,8 +25,16 @@ func (e *exact) add(x float64) {
 	var carry uint64
 	e[at], carry = wide.Add64(e[at], size<<in, 0)
 	e[at+1], carry = wide.Add64(e[at+1], size>>(64-in), carry)
-	for i := at + 2; carry != 0; i++ {
+	for i := at + 2; carry != 0 && i < len(e); i++ {
 		e[i], carry = wide.Add64(e[i], 0, carry)
+	}
+}
+
+// join another sum to it.
+func (e *exact) join(f *exact) {
+	var carry uint64
+	for i := range e {
+		e[i], carry = wide.Add64(e[i], f[i], carry)
 	}
 }
 
@@ -102,14 +110,4 @@ func (e *exact) anyBelow(bit int) bool {
 		}
 	}
 	return e[at]&(1<<in-1) != 0
-}
-
-// allMinusZero: only such numbers sum up to -0.
-func allMinusZero(l []float64) bool {
-	for _, x := range l {
-		if x != 0 || !math.Signbit(x) {
-			return false
-		}
-	}
-	return len(l) > 0
 }

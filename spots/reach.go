@@ -4,7 +4,16 @@ import "meridian/api"
 
 const farthest = 1 << 28 // a Star's coordinate, in size
 
+// FarOff: a star is so far that Far may be too great for an int.
+func FarOff(s api.Star) bool { return isFarOff(s.X) || isFarOff(s.Y) }
+
 func isFarOff(n int) bool { return n < -farthest || n > farthest }
+
+// Far: the square of how far a pixel's middle is from a star.
+func Far(s api.Star, x, y int) int {
+	across, down := middle(x)-s.X, middle(y)-s.Y
+	return across*across + down*down
+}
 
 // hasBox: a spot's box lies in the picture.
 func hasBox(p api.Picture, s Spot) bool {
@@ -25,9 +34,8 @@ func boxPixels(p api.Picture, s Spot) ([]pixel, int) {
 	all := 0
 	for y := s.Top; y <= s.Low; y++ {
 		for x := s.Left; x <= s.Right; x++ {
-			across, down := middle(x)-s.Star.X, middle(y)-s.Star.Y
 			count := p.Counts[y*p.Wide+x]
-			l = append(l, pixel{far: across*across + down*down, count: count})
+			l = append(l, pixel{far: Far(s.Star, x, y), count: count})
 			all += count
 		}
 	}
