@@ -1,0 +1,107 @@
+package plate
+
+import (
+	"slices"
+
+	"meridian/api"
+)
+
+const (
+	mostPoints = 12      // of a list
+	widest     = 1 << 40 // how near may be told
+	missed     = -1      // the hit of a star that has none
+)
+
+func isDistance(near int) bool { return near >= 0 && near <= widest }
+
+func arePoints(l []api.Cell) bool {
+	return len(l) <= mostPoints && !slices.ContainsFunc(l, func(p api.Cell) bool { return !isPoint(p) })
+}
+
+// A triangle: its shape, and its corners by their ranks.
+type triangle struct {
+	Shape
+	corners [3]api.Cell
+}
+
+// triangles of a list's points by their numbers, the first ones first, of such orders and
+// shapes as are wanted.
+func triangles(l []api.Cell, wanted func(rising bool, s Shape) bool) []triangle {
+	var all []triangle
+	eachThree(len(l), func(a, b, c int) {
+		s, ok := Of(l[a], l[b], l[c])
+		if ok && wanted(a < b && b < c, s) {
+			all = append(all, triangle{s, places(cornersOf([3]api.Cell{l[a], l[b], l[c]}))})
+		}
+	})
+	return all
+}
+
+// eachThree different numbers below n, in any order, the first ones first.
+func eachThree(n int, do func(a, b, c int)) {
+	for a := range n {
+		for b := range n {
+			for c := range n {
+				if a != b && a != c && b != c {
+					do(a, b, c)
+				}
+			}
+		}
+	}
+}
+
+// bestFit: the first one of those by which most stars hit.
+func bestFit(stars, list []api.Cell, k, near int) (best Fit, ok bool) {
+	seen := triangles(stars, func(rising bool, _ Shape) bool { return rising })
+	// Another order of the same points makes another fit only if two sides are as long.
+	known := triangles(list, func(rising bool, s Shape) bool { return rising || s.Hand == 0 })
+	most := -1
+	for _, s := range seen {
+		for _, p := range known {
+			if !alike(s.Shape, p.Shape, k) {
+				continue
+			}
+			f := fitOf(s.corners, p.corners)
+			if n := countHits(f, stars, list, near); n > most {
+				best, most = f, n
+			}
+		}
+	}
+	return best, most >= 0
+}
+
+func countHits(f Fit, stars, list []api.Cell, near int) int {
+	count := 0
+	for _, s := range stars {
+		if hit(f.takes(s), list, near) != missed {
+			count++
+		}
+	}
+	return count
+}
+
+func hitsOf(f Fit, stars, list []api.Cell, near int) []int {
+	hits := make([]int, len(stars))
+	for i, s := range stars {
+		hits[i] = hit(f.takes(s), list, near)
+	}
+	return hits
+}
+
+// hit of a star that is taken there: the number of the nearest point that is near enough.
+func hit(at api.Cell, list []api.Cell, near int) int {
+	best, least := missed, 0
+	for i, p := range list {
+		way := gap(at.X, p.X) + gap(at.Y, p.Y)
+		if isNear(at, p, near) && (best == missed || way < least) {
+			best, least = i, way
+		}
+	}
+	return best
+}
+
+func isNear(a, b api.Cell, near int) bool {
+	return gap(a.X, b.X) <= near && gap(a.Y, b.Y) <= near
+}
+
+func gap(a, b int) int { return max(a-b, b-a) }
