@@ -25,9 +25,11 @@ func square(a, b api.Cell) int {
 	return x*x + y*y
 }
 
-// A corner of a triangle, and the square of the side across from it.
+// A corner of a triangle: at which of three places it stands, and the square of the side
+// across from it.
 type corner struct {
 	at     api.Cell
+	place  int
 	across int
 }
 
@@ -37,14 +39,14 @@ func cornersOf(p [3]api.Cell) [3]corner {
 	across := func(i int) int { return square(p[(i+1)%3], p[(i+2)%3]) }
 	var l [3]corner
 	for i := range l {
-		l[i] = corner{at: p[i], across: across(i)}
+		l[i] = corner{at: p[i], place: i, across: across(i)}
 	}
 	slices.SortStableFunc(l[:], func(a, b corner) int { return cmp.Compare(b.across, a.across) })
 	return l
 }
 
-// places of corners.
-func places(l [3]corner) [3]api.Cell { return [3]api.Cell{l[0].at, l[1].at, l[2].at} }
+// places of corners among the three.
+func places(l [3]corner) [3]int { return [3]int{l[0].place, l[1].place, l[2].place} }
 
 // shapeOf corners that are sorted and not in a line.
 func shapeOf(l [3]corner) Shape {

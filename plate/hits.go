@@ -18,20 +18,28 @@ func arePoints(l []api.Cell) bool {
 	return len(l) <= mostPoints && !slices.ContainsFunc(l, func(p api.Cell) bool { return !isPoint(p) })
 }
 
-// A triangle: its shape, and its corners by their ranks.
+// A triangle: its shape, its corners as they stand, and their places by their ranks.
 type triangle struct {
 	Shape
 	corners [3]api.Cell
+	ranked  [3]int
 }
 
-// triangles of a list's points by their numbers, the first ones first, of such orders and
-// shapes as are wanted.
-func triangles(l []api.Cell, wanted func(rising bool, s Shape) bool) []triangle {
+// goesWith another one: alike, and the corners that stand at the same place are of the same
+// rank, so that an order of three points is one way of putting them on three stars, or none.
+func (t triangle) goesWith(other triangle, k int) bool {
+	return t.ranked == other.ranked && alike(t.Shape, other.Shape, k)
+}
+
+// triangles of a list's points by their numbers, the first ones first, of such orders as
+// are wanted.
+func triangles(l []api.Cell, wanted func(a, b, c int) bool) []triangle {
 	var all []triangle
 	eachThree(len(l), func(a, b, c int) {
 		s, ok := Of(l[a], l[b], l[c])
-		if ok && wanted(a < b && b < c, s) {
-			all = append(all, triangle{s, places(cornersOf([3]api.Cell{l[a], l[b], l[c]}))})
+		if ok && wanted(a, b, c) {
+			three := [3]api.Cell{l[a], l[b], l[c]}
+			all = append(all, triangle{s, three, places(cornersOf(three))})
 		}
 	})
 	return all
@@ -52,13 +60,12 @@ func eachThree(n int, do func(a, b, c int)) {
 
 // bestFit: the first one of those by which most stars hit.
 func bestFit(stars, list []api.Cell, k, near int) (best Fit, ok bool) {
-	seen := triangles(stars, func(rising bool, _ Shape) bool { return rising })
-	// Another order of the same points makes another fit only if two sides are as long.
-	known := triangles(list, func(rising bool, s Shape) bool { return rising || s.Hand == 0 })
+	seen := triangles(stars, func(a, b, c int) bool { return a < b && b < c })
+	known := triangles(list, func(a, b, c int) bool { return true })
 	most := -1
 	for _, s := range seen {
 		for _, p := range known {
-			if !alike(s.Shape, p.Shape, k) {
+			if !s.goesWith(p, k) {
 				continue
 			}
 			f := fitOf(s.corners, p.corners)

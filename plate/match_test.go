@@ -27,8 +27,8 @@ func TestKnownMatches(t *testing.T) {
 		{12, 7, 12, 100, 60, 3, plate.Fit{85, 476, 112897, -500, 32, 275593, 3009}, []int{-1, 1, 1, 3, -1, -1, -1, 8, 8, -1, 3, 8}},
 		{9, 8, 11, 1000, 100, 40, plate.Fit{-1466, -8497, 9734436, 4527, 3945, 1605666, 13389}, []int{1, 5, 10, -1, 9, 9, -1, 10, -1}},
 		{12, 9, 12, last, 30, 9000, plate.Fit{231136356, -744210511, 169774571659204, 636407112, -32934553, 257440292147224, 2007903574}, []int{1, 0, 9, -1, 2, 6, 3, -1, 9, -1, 1, 0}},
-		{12, 1, 12, last, 1000, 0, plate.Fit{8351910333, -1710677046, -156978208950870, -1494236888, 2780826964, 1332618474074986, 8083823577}, []int{4, 0, 1, -1, -1, -1, -1, -1, -1, -1, -1, -1}},
-		{12, 2, 12, last, 1000, widest, plate.Fit{-16204131950, 4277762560, 4636385760148380, -17596845367, 1851772583, 5000809267509150, 16202102790}, []int{1, 0, 2, 2, 5, 6, 2, 2, 2, 2, 8, 8}},
+		{12, 1, 12, last, 1000, 0, plate.Fit{-1811382020, 9947432323, 299951872459636, -18923049678, -8169359727, 4602799004695443, 8083823577}, []int{0, 2, 3, -1, -1, -1, -1, -1, -1, -1, -1, -1}},
+		{12, 2, 12, last, 1000, widest, plate.Fit{-1023732607, 16923557453, 61057068530190, -16952208157, 2869704203, 4418033293690890, 16202102790}, []int{0, 11, 3, 4, 11, 8, 7, 2, 6, 6, 5, 4}},
 		{10, 6, 12, 6, 0, 0, plate.Fit{3, 1, -6, -1, 3, 22, 10}, []int{4, 1, 9, 1, 9, 9, 1, 1, 4, 4}},
 		{12, 11, 12, 4, 1000, 0, plate.Fit{-1, -3, 15, 1, -8, 29, 11}, []int{7, 7, 8, 5, 6, 5, 7, 7, 7, 5, 5, 7}},
 		{8, 12, 12, 5, 200, 0, plate.Fit{-4, 1, 17, -1, -4, 68, 17}, []int{7, 7, 1, 1, 1, 7, 7, 0}},
@@ -120,14 +120,82 @@ func TestMatchFirst(t *testing.T) {
 	needMatch(t, three, twice, 0, 0, plate.Fit{1, 0, 0, 0, 1, 0, 1}, []int{0, 1, 2})
 	needMatch(t, three, slices.Concat(moved(50, 70), three), 0, 0, plate.Fit{1, 0, 50, 0, 1, 70, 1}, []int{0, 1, 2})
 	needMatch(t, slices.Concat(moved(50, 70), moved(200, 3)), three, 0, 0, plate.Fit{1, 0, -50, 0, 1, -70, 1}, []int{0, 1, 2, -1, -1, -1})
-	// The numbers of three points count, not which corner has the first one.
+	// The point on the first star counts first, not the least number of three points.
 	list := slices.Concat([]api.Cell{at(0, 14), at(90, 90)}, moved(50, 70), []api.Cell{at(3, 10), at(0, 10)})
-	needMatch(t, three, list, 0, 0, plate.Fit{1, 0, 0, 0, 1, 10, 1}, []int{6, 5, 0})
+	needMatch(t, three, list, 0, 0, plate.Fit{1, 0, 50, 0, 1, 70, 1}, []int{2, 3, 4})
 	// One that hits more is better, wherever it stands.
 	needMatch(t, append(slices.Clone(three), at(1, 1)), append(slices.Clone(twice), at(51, 71)), 0, 0, plate.Fit{1, 0, 50, 0, 1, 70, 1}, []int{3, 4, 5, 6})
 	// Points that are there twice: the first of them is hit.
 	needMatch(t, three, slices.Concat(three, three), 0, 0, plate.Fit{1, 0, 0, 0, 1, 0, 1}, []int{0, 1, 2})
 	needMatch(t, slices.Concat(three, three), three, 0, 0, plate.Fit{1, 0, 0, 0, 1, 0, 1}, []int{0, 1, 2, 0, 1, 2})
+}
+
+// P142: points are taken in the order in which they go with the stars, corner for corner.
+func TestMatchInOrder(t *testing.T) {
+	slanted := []api.Cell{at(0, 0), at(3, 0), at(0, 1)}
+	list := []api.Cell{at(10, 10), at(7, 11), at(13, 10), at(7, 10), at(10, 11)}
+	needMatch(t, slanted, list, 0, 0, plate.Fit{1, 0, 10, 0, 1, 10, 1}, []int{0, 2, 4})
+	far := []api.Cell{at(200007, 200017), at(200009, 200017), at(200008, 200017), at(200008, 200016)}
+	list = []api.Cell{at(1, 1), at(1, 2), at(1, 0), at(0, 1), at(2, 2)}
+	needMatch(t, far, list, 5, 50, plate.Fit{1, 1, -400022, 1, -1, 12, 2}, []int{0, 4, 0, 1})
+}
+
+// P142: of two skies that are the same, moved, the one whose point on the first star has
+// the lesser number, whichever order stars and points are in; where two sides are as long,
+// then the lesser number on the second star, then on the third.
+func TestMatchFirstOfTwoSkies(t *testing.T) {
+	dice := rand.New(rand.NewSource(14200))
+	for _, three := range [][3]api.Cell{{at(0, 0), at(3, 0), at(0, 4)}, {at(9, 2), at(0, 0), at(1, 5)}, {at(0, 0), at(4, 0), at(0, 4)}, {at(0, 0), at(6, 0), at(3, 9)}} {
+		for _, stars := range orders(three[0], three[1], three[2]) {
+			for range 20 {
+				list := slices.Concat(by(plate.Fit{1, 0, 40, 0, 1, 3, 1}, three[:]), by(plate.Fit{0, -1, 90, 1, 0, 90, 1}, three[:]))
+				dice.Shuffle(len(list), func(i, j int) { list[i], list[j] = list[j], list[i] })
+				f, hits := firstSame(stars, list)
+				needMatch(t, stars[:], list, 0, 0, f, hits)
+			}
+		}
+	}
+}
+
+// firstSame: the first three points that are as far from each other as three stars are, each
+// from each, and go around as they do, unless two sides are as long.
+func firstSame(stars [3]api.Cell, list []api.Cell) (plate.Fit, []int) {
+	sides := func(p [3]api.Cell) [3]int { return [3]int{sideAcross(p, 0), sideAcross(p, 1), sideAcross(p, 2)} }
+	shape, _ := toldOf(stars)
+	for i, a := range list {
+		for j, b := range list {
+			for k, c := range list {
+				p := [3]api.Cell{a, b, c}
+				if sides(p) == sides(stars) && (shape.Hand == 0 || against(p) == against(stars)) {
+					f, _ := toldSolve(stars, p)
+					return f, []int{i, j, k}
+				}
+			}
+		}
+	}
+	return plate.Fit{}, nil
+}
+
+// P142: two sides as long, the longest ones of one three and the shortest ones of the other:
+// corners across sides as long have their ranks in the order as they stand, so only where
+// the stars stand by their ranks do points go with them.
+func TestMatchOtherTwoSides(t *testing.T) {
+	tall, flat := [3]api.Cell{at(0, 0), at(6, 0), at(3, 9)}, [3]api.Cell{at(3, 1), at(0, 0), at(6, 0)}
+	for _, c := range [][2][3]api.Cell{{tall, flat}, {flat, tall}} {
+		for _, stars := range orders(c[0][0], c[0][1], c[0][2]) {
+			for _, list := range orders(c[1][0], c[1][1], c[1][2]) {
+				_, byRank := ranked(stars)
+				if stars != byRank {
+					needMatch(t, stars[:], list[:], 1000, widest, plate.Fit{}, nil)
+					continue
+				}
+				_, points := ranked(list)
+				f, _ := toldSolve(stars, points)
+				hits := []int{slices.Index(list[:], points[0]), slices.Index(list[:], points[1]), slices.Index(list[:], points[2])}
+				needMatch(t, stars[:], list[:], 1000, 0, f, hits)
+			}
+		}
+	}
 }
 
 // P142: what a star hits: near along both axes, the nearest by both together, the first one.

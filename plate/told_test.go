@@ -215,10 +215,10 @@ func toldHits(f plate.Fit, stars, list []api.Cell, near int) (hits []int, many i
 	return hits, many
 }
 
-// told threes of points: their shapes, and their corners by rank.
+// told threes of points, as they stand, and their shapes.
 type toldThree struct {
-	shape   plate.Shape
-	corners [3]api.Cell
+	points [3]api.Cell
+	shape  plate.Shape
 }
 
 // toldThrees: all three points of a list that have a shape, rising ones or in any order.
@@ -229,13 +229,27 @@ func toldThrees(l []api.Cell, rising bool) []toldThree {
 			for k := range l {
 				p := [3]api.Cell{l[i], l[j], l[k]}
 				if s, ok := toldOf(p); ok && (!rising || i < j && j < k) {
-					_, corners := ranked(p)
-					all = append(all, toldThree{s, corners})
+					all = append(all, toldThree{p, s})
 				}
 			}
 		}
 	}
 	return all
+}
+
+// cornerForCorner: of each two places, that of the longer side across is the same one here
+// and there; of sides as long, the one ahead counts as the longer.
+func cornerForCorner(from, to [3]api.Cell) bool {
+	for j := range from {
+		for i := range j {
+			here := sideAcross(from, i) >= sideAcross(from, j)
+			there := sideAcross(to, i) >= sideAcross(to, j)
+			if here != there {
+				return false
+			}
+		}
+	}
+	return true
 }
 
 // toldMatch goes through all orders of all points, and keeps all fits.
@@ -249,10 +263,10 @@ func toldMatch(stars, list []api.Cell, k, near int) (plate.Fit, []int, bool) {
 	threes := toldThrees(list, false)
 	for _, from := range toldThrees(stars, true) {
 		for _, to := range threes {
-			if !toldAlike(from.shape, to.shape, k) {
+			if !cornerForCorner(from.points, to.points) || !toldAlike(from.shape, to.shape, k) {
 				continue
 			}
-			f, _ := toldSolve(from.corners, to.corners)
+			f, _ := toldSolve(from.points, to.points)
 			if _, again := seen[f]; again {
 				continue
 			}
