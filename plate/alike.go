@@ -1,6 +1,6 @@
 package plate
 
-import "math/bits"
+import "meridian/wide"
 
 const (
 	longest   = 1 << 38 // a side's square
@@ -20,29 +20,6 @@ func alike(a, b Shape, k int) bool {
 // within: the side of a long one and the other of another long one are parts of them that
 // differ by at most k thousandths. Only the last factor makes a product more than a word.
 func within(side, long, other, otherLong, k int) bool {
-	off := apart(product(thousands*side, otherLong), product(thousands*other, long))
-	return !product(k*long, otherLong).below(off)
-}
-
-// A wide number of two words, since products of squares are more than one.
-type wide struct{ high, low uint64 }
-
-// product of two numbers that are not below 0.
-func product(a, b int) wide {
-	high, low := bits.Mul64(uint64(a), uint64(b))
-	return wide{high, low}
-}
-
-func (a wide) below(b wide) bool {
-	return a.high < b.high || a.high == b.high && a.low < b.low
-}
-
-// apart: how far two numbers are from each other.
-func apart(a, b wide) wide {
-	if a.below(b) {
-		a, b = b, a
-	}
-	low, borrow := bits.Sub64(a.low, b.low, 0)
-	high, _ := bits.Sub64(a.high, b.high, borrow)
-	return wide{high, low}
+	off := wide.Apart(wide.Product(thousands*side, otherLong), wide.Product(thousands*other, long))
+	return wide.Product(k*long, otherLong).Compare(off) >= 0
 }
